@@ -490,6 +490,26 @@ func TestThrown(t *testing.T) {
 	}
 }
 
+// Next goes on as a mark does, and from nowhere but a place.
+func TestNext(t *testing.T) {
+	for n := range 70 {
+		r := api.Ring{Cells: make([]api.Cell, n)}
+		for at := range n - 1 {
+			if next, ok := Next(r, at); !ok || next != (at+1)%(n-1) {
+				t.Errorf("%d cells: behind %d: %d %t", n, at, next, ok)
+			}
+		}
+		for _, at := range append([]int{n - 1, n, n + 1}, far...) {
+			if 0 <= at && at < n-1 {
+				continue
+			}
+			if next, ok := Next(r, at); ok || next != 0 {
+				t.Errorf("%d cells: behind %d: %d %t", n, at, next, ok)
+			}
+		}
+	}
+}
+
 // P12.4
 
 // book counts what was put, got and learned, and never goes round.
