@@ -833,6 +833,51 @@ func TestMadeIsDone(t *testing.T) {
 	}
 }
 
+// TestAsked: a WRITE in its form asks for 16 bytes for each block, wherever these are, and nothing else asks for any.
+func TestAsked(t *testing.T) {
+	for count := range 1 << 16 {
+		for _, op := range []byte{40, 42, 53} {
+			want := 0
+			if op == 42 {
+				want = 16 * count
+			}
+			if size := Asked(about(op, uint32(count)*65537, uint16(count))); size != want {
+				t.Fatalf("first byte %d, %d blocks: %d", op, count, size)
+			}
+		}
+	}
+	for op := range 256 {
+		for size := range 20 {
+			command := with(about(42, 1, 2), 0, byte(op)) + "\x00\x00\x00\x00\x00\x00\x00\x00\x00\x00"
+			want := 0
+			if op == 42 && size == 10 {
+				want = 32
+			}
+			if got := Asked(command[:size]); got != want {
+				t.Errorf("Asked(%x) = %d", command[:size], got)
+			}
+		}
+	}
+	for _, at := range []int{1, 6, 9} {
+		if size := Asked(with(about(42, 1, 2), at, 1)); size != 0 {
+			t.Errorf("a WRITE with a slip at %d: %d", at, size)
+		}
+	}
+}
+
+// TestAskedIsRight: a WRITE that can be done is done with just so many bytes as it asks for.
+func TestAskedIsRight(t *testing.T) {
+	d := dice{24}
+	disk := d.thrown(64)
+	for lba := range 65 {
+		for count := range 65 - lba {
+			command := about(42, uint32(lba), uint16(count))
+			holdOK(t, disk, command, d.text(Asked(command)))
+			holdSense(t, disk, command, d.text(Asked(command)+1), 36)
+		}
+	}
+}
+
 // TestFailure: a failure has its Sense, also as a text.
 func TestFailure(t *testing.T) {
 	var err error = failure{33}
